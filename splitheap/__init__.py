@@ -1,0 +1,1 @@
+"""Splitheap: heaps of things that are poured together."""
